@@ -558,25 +558,29 @@ func TestParseRecordOfEveryShortString(t *testing.T) {
 	everyString("a1.|;\x7f", 5, func(s string) { checkParsed(t, "c2.3|"+s) })
 }
 
-// Every change of one byte of a format gives another format or none.
-func TestParseRecordOfEveryChange(t *testing.T) {
+// everyChange calls visit with s, its prefixes and suffixes, and every string
+// with one byte more than s, one less, or one other byte.
+func everyChange(s string, visit func(string)) {
 	all := everyByte()
-	for _, s := range []string{"a1.2|Anna Smith|Paris|1980|555 1234", "d99.999||||", "b10.1| |x||" + strings.Repeat("y", 40)} {
-		checkParsed(t, s)
-		for i := range len(s) + 1 {
-			checkParsed(t, s[:i])
-			checkParsed(t, s[i:])
-			for j := range len(all) {
-				checkParsed(t, s[:i]+all[j:j+1]+s[i:])
-				if i < len(s) {
-					checkParsed(t, s[:i]+all[j:j+1]+s[i+1:])
-				}
-			}
+	for i := range len(s) + 1 {
+		visit(s[:i])
+		visit(s[i:])
+		for j := range len(all) {
+			visit(s[:i] + all[j:j+1] + s[i:])
 			if i < len(s) {
-				checkParsed(t, s[:i]+s[i+1:])
-				checkParsed(t, s[:i+1]+s[i:])
+				visit(s[:i] + all[j:j+1] + s[i+1:])
 			}
 		}
+		if i < len(s) {
+			visit(s[:i] + s[i+1:])
+		}
+	}
+}
+
+// Every change of one byte of a format gives another format or none.
+func TestParseRecordOfEveryChange(t *testing.T) {
+	for _, s := range []string{"a1.2|Anna Smith|Paris|1980|555 1234", "d99.999||||", "b10.1| |x||" + strings.Repeat("y", 40)} {
+		everyChange(s, func(changed string) { checkParsed(t, changed) })
 	}
 }
 
