@@ -319,7 +319,11 @@ func TestEqualTokensOfAnyLists(t *testing.T) {
 
 // withSpare returns a copy of l with unused capacity, and all of its memory.
 func withSpare(l []string) ([]string, []string) {
-	all := append(slices.Clone(l), "spare", "spare", "spare", "spare")
+	return withSpareOf(l, "spare")
+}
+
+func withSpareOf[E any](l []E, spare E) ([]E, []E) {
+	all := append(slices.Clone(l), spare, spare, spare, spare)
 	return all[:len(l)], all
 }
 
